@@ -119,17 +119,26 @@ func moved(g api.Graph, order []int) api.Graph {
 	return h
 }
 
-// thorny returns a graph of 16 nodes, six people and no clique of six that a search for long proofs came by: the proof has some 800 steps.
-func thorny() api.Graph {
-	g := graph(16)
-	for b, before := range []uint{0, 0, 0x1, 0x1, 0x6, 0xb, 0x18, 0x15, 0x23, 0xd6, 0x140, 0x658, 0xc8c, 0x563, 0x1ad6, 0x148e} { // from which nodes before it each one is kept apart
-		for a := range b {
-			if before>>a&1 == 1 {
-				g = with(g, cut(a, b))
+// thorny returns graphs of 16 nodes that searches for long proofs came by: each is hard for some way to find one.
+func thorny() []api.Graph {
+	var l []api.Graph
+	for _, rows := range [][16]uint{
+		{0, 0, 0x2, 0x6, 0x9, 0x19, 0xc, 0xa, 0x8a, 0x1c7, 0x183, 0x3c7, 0x582, 0x1474, 0x1445, 0x4039},
+		{0, 0x1, 0x1, 0x4, 0x1, 0xe, 0x2c, 0x30, 0x95, 0x4f, 0x1d0, 0x59a, 0x653, 0x16c, 0x28aa, 0x7283},
+		{0, 0x1, 0x3, 0x4, 0x9, 0x1e, 0x24, 0x49, 0x93, 0x107, 0x20e, 0x750, 0xe18, 0x1870, 0x30e8, 0x71c3},
+		{0, 0x1, 0x1, 0, 0x4, 0xb, 0x24, 0x19, 0x24, 0x84, 0x43, 0xa0, 0x613, 0x103, 0x300b, 0x2c03},
+	} {
+		g := graph(16)
+		for b, before := range rows { // from which nodes before it each one is kept apart
+			for a := range b {
+				if before>>a&1 == 1 {
+					g = with(g, cut(a, b))
+				}
 			}
 		}
+		l = append(l, g)
 	}
-	return g
+	return l
 }
 
 // related is which nodes of a graph are joined, and which are kept apart.
@@ -403,11 +412,11 @@ func small(seed noise, many, nodes int) []api.Graph {
 func hard() []api.Graph {
 	odd := ring(5)
 	sparse := shadowed(odd) // 11 nodes, no three of them kept apart, four people
-	return []api.Graph{
+	return append([]api.Graph{
 		ring(15), sparse, both(odd, odd), both(odd, both(odd, odd)), both(sparse, odd), both(graph(1), both(odd, both(odd, odd))),
 		both(ring(7), ring(9)), shadowed(ring(7)), both(graph(1), shadowed(ring(7))), shadowed(graph(2, cut(0, 1))),
-		circle(13, 0b001101), circle(16, 0b10010011), circle(16, 0b01011), circle(14, 0b0010111), full(16), graph(16), thorny(),
-	}
+		circle(13, 0b001101), circle(16, 0b10010011), circle(16, 0b01011), circle(14, 0b0010111), full(16), graph(16),
+	}, thorny()...)
 }
 
 // proved returns a proof, which is accepted, and whether there is one.

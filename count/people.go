@@ -183,14 +183,10 @@ func Greedy(g api.Graph, order []int) ([]int, api.Errno) {
 		return nil, api.ErrArg
 	}
 	var l people
-	left := x.begin.stand
 	for _, n := range order {
-		group := x.of[n]
-		if left.has(group) {
-			person, _ := l.room(&x.begin, group, 0, maxGroups)
-			l[person] |= one(group)
-			left &^= one(group)
-		}
+		// A group that has a person finds this one again: those before have not become emptier.
+		person, _ := l.room(&x.begin, x.of[n], 0, maxGroups)
+		l[person] |= one(x.of[n])
 	}
 	return x.partition(l), api.OK
 }

@@ -12,8 +12,8 @@ func (c *state) critical(some set, people int) set {
 	return some
 }
 
-// question returns two of some groups of which it is not known whether they are of one person: one of a greatest clique, and one that is kept apart from as many of this clique as possible.
-func (c *state) question(some set) (int, int) {
+// outOfClique returns two of some groups of which it is not known whether they are of one person: one of a greatest clique, and one that is kept apart from as many of this clique as possible.
+func (c *state) outOfClique(some set) (int, int) {
 	clique := c.clique(some)
 	next, most := 0, -1
 	for group := range (some &^ clique).all() {
@@ -25,11 +25,26 @@ func (c *state) question(some set) (int, int) {
 	return (clique &^ c.apart[next]).first(), next
 }
 
+// alike returns two of some groups of which it is not known whether they are of one person: those that are kept apart from as many of the same groups as possible.
+func (c *state) alike(some set) (int, int) {
+	a, b, most := 0, 0, -1
+	for first := range some.all() {
+		for other := range (some &^ c.apart[first] &^ one(first)).all() {
+			near := (c.apart[first]&c.apart[other]&some).size()*maxGroups + (c.apart[first] & some).size() + (c.apart[other] & some).size()
+			if near > most {
+				a, b, most = first, other, near
+			}
+		}
+	}
+	return a, b
+}
+
 // prover writes a proof that there are more people.
 type prover struct {
 	*grouped
-	people int
-	steps  []api.Step
+	people   int
+	question func(c *state, some set) (int, int)
+	steps    []api.Step
 }
 
 // prove writes the steps that prove it for some groups that stand in a case, and returns the index of the first one.
@@ -42,7 +57,7 @@ func (p *prover) prove(c state, some set) int {
 	}
 	// What is not needed would be asked again in each case of what is.
 	some = c.critical(some, p.people)
-	a, b := c.question(some)
+	a, b := p.question(&c, some)
 	var next [2]int
 	for i, ask := range []func(a, b int) state{c.joined, c.parted} {
 		answer := ask(a, b)
@@ -50,6 +65,13 @@ func (p *prover) prove(c state, some set) int {
 	}
 	p.steps[at] = api.Step{A: p.node[a], B: p.node[b], Together: next[0], Apart: next[1]}
 	return at
+}
+
+// proof returns the proof that a way to ask leads to.
+func (x *grouped) proof(people int, question func(c *state, some set) (int, int)) []api.Step {
+	p := prover{grouped: x, people: people, question: question}
+	p.prove(x.begin, x.begin.stand)
+	return p.steps
 }
 
 // Proof returns a proof that there are more people, and whether there is one.
@@ -61,9 +83,12 @@ func Proof(g api.Graph, people int) ([]api.Step, bool, api.Errno) {
 	if _, is := x.begin.fit(x.begin.stand, people); is {
 		return nil, false, api.OK
 	}
-	p := prover{grouped: &x, people: people}
-	p.prove(x.begin, x.begin.stand)
-	return p.steps, true, api.OK
+	// Each way to ask leads to long proofs for some graphs, hardly ever both for the same ones.
+	l, other := x.proof(people, (*state).outOfClique), x.proof(people, (*state).alike)
+	if len(other) < len(l) {
+		return other, true, api.OK
+	}
+	return l, true, api.OK
 }
 
 // CheckProof returns ErrProof unless this proves that there are more people.

@@ -84,6 +84,13 @@ func TestRepeatExamples(t *testing.T) {
 			t.Error(i, y, err)
 		}
 	}
+	// The element 10 is the first one with sides, the element 9 the last one without.
+	sides := []api.Find{{Element: 10, Side: api.LeftS, Zones: api.Set{1}}, {Element: 10, Side: api.RightS, Zones: api.Set{1}}, {Element: 9, Zones: api.Set{1}}, {Element: 9, Zones: api.Set{1}}}
+	for element, want := range map[int]api.Span{10: {Lo: 1, Hi: 2}, 9: {Lo: 2, Hi: 2}} {
+		if y, err := count.Repeat(sides, element, 0); y != want || err != api.OK {
+			t.Error(element, y, err)
+		}
+	}
 	if y, err := count.Repeat(nil, 12, 0); y != (api.Span{}) || err != api.OK {
 		t.Error(y, err)
 	}
